@@ -491,6 +491,20 @@ func TestMeaningOfMany(t *testing.T) { // P13.5: of programs and bases by chance
 	}
 }
 
+func TestMeaningOfGreatModels(t *testing.T) { // P13.5: up to where the relays make the model too great, though the program's is not
+	l := program(t, "A: p(X) :- r(X) at b.")
+	for many := range 82 {
+		var base []api.Fact
+		for n := range many {
+			base = append(base, fact.Own("b", "r", num(n)))
+		}
+		follow, relays, ok := sameMeaning(t, l, []string{"a", "b"}, base) // each of the two asks once, and is told all
+		if ok != (5*many+2 <= api.MaxModel) || ok && (len(follow) != 2*many || len(relays) != 2+2*many) {
+			t.Errorf("%d facts: %d follow, %d relays, %t", many, len(follow), len(relays), ok)
+		}
+	}
+}
+
 func TestMeaningByRemoteLiterals(t *testing.T) { // P13.5: of all rules with two literals of few kinds, at all places; each of the heads stands for one choice
 	var all []api.Literal
 	for _, by := range terms(api.Term{}, variable("A"), variable("B"), name("b")) {
