@@ -396,6 +396,23 @@ func TestLikeTexts(t *testing.T) { // P14.2: values that would be the same, were
 	}
 }
 
+func TestLikeForms(t *testing.T) { // P14.2: literals that would be the same, were their parts laid one behind the other
+	var l []api.Fact
+	var literals []api.Literal
+	for _, s := range []string{"", "a", "b", "n", "v0 ", "a cfalse 0 1 b", "acfalse 0 1 b", "acfalse 0  b", "a cfalse 0  b", "1 a", "ctrue 1 0 ", "q1", "1"} {
+		for _, args := range [][]api.Term{{name(s)}, {name(s), name("b")}, {name("a"), name(s)}, {variable(s)}, {variable("X" + s), variable("X")}, {variable("X"), variable(s + "X")}, {variable("X"), name(s), variable("X")}} {
+			literals = append(literals, api.Literal{Pred: "q", Args: args}, api.Literal{Pred: "q" + s, Args: args})
+		}
+		l = append(l, fact.Own("a", "q", text(s)), fact.Own("a", "q", text(s), text("b")), fact.Own("a", "q", text("a"), text(s)), fact.Own("a", "q"+s, text(s)), fact.Own("a", "q", text("a"), text(s), text("b")), fact.Own("a", "q", text("a"), text(s), text("a")))
+	}
+	l = fact.Sorted(l...)
+	for _, v := range literals {
+		for _, w := range literals {
+			holdBodies(t, api.Rule{Home: variable("A"), Body: []api.Literal{v, w}}, "a", -1, api.Fact{}, l)
+		}
+	}
+}
+
 func TestManyBodies(t *testing.T) { // P14.2 by its words, of many rules and facts
 	die := rand.New(rand.NewSource(2))
 	some, several, inL, notInL := 0, 0, 0, 0
@@ -780,5 +797,7 @@ func FuzzPlan(f *testing.F) {
 				binds(t, r, "a", body)
 			}
 		}
+		r, l = circle(k)
+		holdBodies(t, r, "a", -1, x, l)
 	})
 }

@@ -1,123 +1,165 @@
 package plan
 
-import (
-	"slices"
-	"strconv"
+import "slices"
 
-	"avowal/api"
-	"avowal/match"
-)
-
-// point is where a search may stand ahead of a step: what is bound and asked from there on, and the ways that lead on. What else was bound on the way there plays no part any more, so that whatever is behind a point is looked for once, however many come to it.
-type point struct {
-	env  []api.Bind
-	ways []way
+// search looks for all choices of relations by which their variables have one value each. It gives one variable after another one a value, lets all go that this rules out, and goes into each part that is left on its own. It goes on only where something will be found, so that what it keeps is what was given, what is found, and a memory that has a limit.
+type search struct {
+	relations []*relation
+	variables []*variable
+	given     int     // so many variables are the rule's; those behind them stand for several
+	order     []int32 // of relations: each one behind the one from which it is reached
+	trail     []change
+	waiting   []int32 // relations that are to be looked at
+	turns     []int32 // those whose turn it is
+	now       int     // how often values were given
+	spare     []test  // room for those of one relation
+	round     int
+	patience  int  // how many failures are borne at first till all is tried anew
+	left      int  // how many more are
+	steady    bool // whether variables are tried by their ranks
+	ranked    bool // whether they have them
+	marks     int  // of how many values a variable may be, so that a name tells them
+	memory    memory
+	found     [][]int32
 }
 
-// way is a choice, and the point of the next step to which it leads.
-type way struct{ choice, point int }
-
-// pointsOf are, step by step, the points of a search, and behind the last step its end, if it comes so far. Each way leads to the end at last.
-func pointsOf(steps []step) [][]point {
-	last := map[string]int{}
-	for k, s := range steps {
-		for _, v := range s.variables() {
-			last[v] = k
-		}
+// find are the choices by which a rule's body holds, one a literal, of being the numbers of the literals' relations.
+func (s *search) find(of []int) [][]int32 {
+	if !s.start() {
+		return nil
 	}
-	all := [][]point{{{}}}
-	var bound []string
-	for k, s := range steps {
-		shared := slices.DeleteFunc(s.variables(), func(v string) bool { return !slices.Contains(bound, v) })
-		fresh := slices.DeleteFunc(s.variables(), func(v string) bool { return slices.Contains(bound, v) })
-		bound = slices.DeleteFunc(append(bound, fresh...), func(v string) bool { return last[v] <= k })
-		all = append(all, onward(all[k], s, shared, bound))
+	for _, v := range s.variables {
+		v.whole = v.domain.many
 	}
-	for k := len(steps) - 2; k >= 0; k-- {
-		cut(all[k], all[k+1])
+	all := make([]int32, s.given)
+	for v := range all {
+		all[v] = int32(v)
 	}
-	return all
+	if parts := s.parts(all); s.allCan(parts) {
+		s.each(ahead(parts, nil), func() { s.tell(of) })
+	}
+	return s.found
 }
 
-// onward gives points the ways on by a step, and tells the points to which they lead. A choice fits, if the variables that it shares with the point have the same values there; kept are the variables that are asked later on.
-func onward(here []point, s step, shared, kept []string) []point {
-	fitting := map[string][]int{}
-	for i, c := range s.choices {
-		k := key(values(shared, c.binds))
-		fitting[k] = append(fitting[k], i)
+// parts that are to be gone through, one behind the other.
+type todo struct {
+	part *part
+	next *todo
+}
+
+// ahead puts parts ahead of others.
+func ahead(parts []*part, others *todo) *todo {
+	for _, p := range slices.Backward(parts) {
+		others = &todo{part: p, next: others}
 	}
-	var next []point
-	numbers := map[string]int{}
-	for i, p := range here {
-		for _, c := range fitting[key(values(shared, p.env))] {
-			env := values(kept, slices.Concat(p.env, s.choices[c].binds))
-			at := key(env)
-			n, was := numbers[at]
-			if !was {
-				n = len(next)
-				numbers[at] = n
-				next = append(next, point{env: env})
+	return others
+}
+
+// each tells wherever all parts have come to one value for each variable. There is a way to that.
+func (s *search) each(t *todo, tell func()) {
+	if t == nil {
+		tell()
+		return
+	}
+	v := s.chosen(t.part)
+	for _, value := range s.values(v) {
+		mark := len(s.trail)
+		if s.give(v, value) {
+			if parts := s.parts(t.part.variables); s.allCan(parts) {
+				s.each(ahead(parts, t.next), tell)
 			}
-			here[i].ways = append(here[i].ways, way{choice: c, point: n})
+		}
+		s.undo(mark)
+	}
+}
+
+// allCan tells whether there are values for all variables of all parts.
+func (s *search) allCan(parts []*part) bool {
+	return !slices.ContainsFunc(parts, func(p *part) bool { return !s.can(p) })
+}
+
+// can tells whether there are values for all variables of a part. After too many failures it begins anew in the other way: where values rule out others it helps to know which variables fail, and where they do not it helps to come to the same parts again and again.
+func (s *search) can(p *part) bool {
+	for many := s.patience; ; many *= 2 {
+		for range 2 {
+			s.left = many
+			if verdict := s.try(p); verdict != unknown {
+				return verdict == possible
+			}
+			s.turn()
 		}
 	}
-	return next
 }
 
-// cut takes away the ways to points from which none leads on.
-func cut(here, next []point) {
-	for i, p := range here {
-		here[i].ways = slices.DeleteFunc(p.ways, func(w way) bool { return len(next[w.point].ways) == 0 })
+// turn goes over to the other way.
+func (s *search) turn() {
+	if !s.ranked {
+		s.rank()
+		s.ranked = true
 	}
+	s.steady = !s.steady
 }
 
-// values are the bindings of some variables, which env has.
-func values(vars []string, env []api.Bind) []api.Bind {
-	var l []api.Bind
-	for _, v := range vars {
-		c, _ := match.Value(api.Term{Var: v}, env)
-		l = append(l, api.Bind{Var: v, Val: c})
+// try tells what is found of a part: unknown after too many failures.
+func (s *search) try(p *part) int {
+	if s.easy(p) {
+		return possible
 	}
-	return l
-}
-
-// key is a text of its own for each list of values of the same variables.
-func key(env []api.Bind) string {
-	var b []byte
-	for _, x := range env {
-		b = strconv.AppendBool(b, x.Val.Num)
-		b = strconv.AppendInt(append(b, ' '), int64(x.Val.N), 10)
-		b = strconv.AppendInt(append(b, ' '), int64(len(x.Val.S)), 10)
-		b = append(append(b, ' '), x.Val.S...)
+	name := s.name(p)
+	if verdict := s.memory.found[name]; verdict != unknown {
+		return verdict
 	}
-	return string(b)
-}
-
-// stand is a point on the way that is being gone, and how many of its ways were tried.
-type stand struct{ point, tried int }
-
-// ends are the choices by which a search comes to its end, in the literals' order. The way stands in a list, not in calls within calls, so that no body is too long.
-func ends(steps []step, points [][]point) [][]int {
-	var all [][]int
-	chosen := make([]int, len(steps))
-	path := []stand{{}}
-	for len(path) > 0 {
-		k := len(path) - 1
-		if k == len(steps) {
-			all = append(all, slices.Clone(chosen))
-			path = path[:k]
-			continue
+	v := s.chosen(p)
+	for _, value := range s.values(v) {
+		if s.left < 0 {
+			return unknown
 		}
-		here := path[k]
-		ways := points[k][here.point].ways
-		if here.tried == len(ways) {
-			path = path[:k]
-			continue
+		if verdict := s.tryValue(p, v, value); verdict != impossible {
+			if verdict == possible {
+				s.memory.put(name, possible)
+			}
+			return verdict
 		}
-		w := ways[here.tried]
-		path[k].tried++
-		chosen[steps[k].literal] = w.choice
-		path = append(path, stand{point: w.point})
+		s.left--
 	}
-	return all
+	s.memory.put(name, impossible)
+	return impossible
+}
+
+// tryValue tells what is found of a part, if one of its variables has a value.
+func (s *search) tryValue(p *part, v, value int32) int {
+	mark := len(s.trail)
+	defer s.undo(mark)
+	if !s.give(v, value) {
+		return impossible
+	}
+	for _, q := range s.parts(p.variables) {
+		if verdict := s.try(q); verdict != possible {
+			return verdict
+		}
+	}
+	return possible
+}
+
+// tell puts down all choices of rows that are left. All rows of one relation have the same values now of what it shares with others.
+func (s *search) tell(of []int) {
+	at := make([]int32, len(s.relations))
+	for more := true; more; more = s.step(at) {
+		l := make([]int32, len(of))
+		for i, n := range of {
+			l[i] = s.relations[n].choice(at[n])
+		}
+		s.found = append(s.found, l)
+	}
+}
+
+// step goes on to the next choice of rows, if there is one.
+func (s *search) step(at []int32) bool {
+	for i, n := range s.relations {
+		if at[i]++; at[i] < n.many() {
+			return true
+		}
+		at[i] = 0
+	}
+	return false
 }

@@ -157,13 +157,9 @@ func wantBodies(r api.Rule, me string, first int, f api.Fact, l []api.Fact) (all
 	if !ok {
 		return nil
 	}
-	wantRest(r, first, f, l, nil, env, func(body []api.Fact) {
-		if !has(all, body) {
-			all = append(all, body)
-		}
-	})
+	wantRest(r, first, f, l, nil, env, func(body []api.Fact) { all = append(all, body) })
 	slices.SortFunc(all, below)
-	return all
+	return slices.CompactFunc(all, sameFacts)
 }
 
 // wantRest tells the bodies that begin with some facts, by which env is bound.
