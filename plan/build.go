@@ -1,6 +1,7 @@
 package plan
 
 import (
+	"math"
 	"slices"
 
 	"avowal/api"
@@ -10,7 +11,7 @@ import (
 type builder struct {
 	search    *search
 	constants map[api.Const]int32 // their numbers, as they come
-	tuples    map[string]int32    // the numbers of several values at once
+	tuples    map[string]int      // the numbers of several values at once, of which there may be more than constants that are given
 	columns   int32               // so many were made
 	pools     map[string]*pool
 	grids     map[string]*grid
@@ -18,14 +19,14 @@ type builder struct {
 
 // newSearch is a search among relations. What not all columns of a variable have is ruled out.
 func newSearch(relations []*relation) *search {
-	s := &search{relations: relations, patience: 64, marks: maxMarks, memory: newMemory(maxMemory)}
-	b := &builder{search: s, constants: map[api.Const]int32{}, tuples: map[string]int32{}, pools: map[string]*pool{}, grids: map[string]*grid{}}
+	s := &search{relations: relations, patience: 64, most: math.MaxInt, marks: maxMarks, memory: newMemory(maxMemory)}
+	b := &builder{search: s, constants: map[api.Const]int32{}, tuples: map[string]int{}, pools: map[string]*pool{}, grids: map[string]*grid{}}
 	b.share()
 	s.given = len(s.variables)
 	s.order = s.join()
 	b.combine()
 	for _, x := range s.variables {
-		x.weight = len(x.relations)
+		x.weight = int32(len(x.relations))
 		x.pool = b.pool(x)
 		x.domain = newBag(len(x.pool.values))
 	}
@@ -113,7 +114,7 @@ func (b *builder) give(i, v int32, c *column) {
 func (b *builder) column(s *shape, open ...int32) *column {
 	name := string(appendNumbers(nil, open...))
 	if s.columns[name] == nil {
-		values := make([]int32, len(s.choices))
+		values := make([]int, len(s.choices))
 		for i, x := range s.choices {
 			values[i] = b.value(x, open)
 		}
@@ -124,22 +125,22 @@ func (b *builder) column(s *shape, open ...int32) *column {
 }
 
 // value is the number of what a choice binds some variables to.
-func (b *builder) value(x choice, open []int32) int32 {
+func (b *builder) value(x choice, open []int32) int {
 	var l []int32
 	for _, k := range open {
 		l = append(l, numbered(b.constants, x.binds[k].Val))
 	}
 	if len(l) == 1 {
-		return l[0]
+		return int(l[0])
 	}
 	return numbered(b.tuples, string(appendNumbers(nil, l...)))
 }
 
 // numbered is the number of a key: the next one, if it has none.
-func numbered[K comparable](numbers map[K]int32, key K) int32 {
+func numbered[K comparable, N int32 | int](numbers map[K]N, key K) N {
 	n, was := numbers[key]
 	if !was {
-		n = int32(len(numbers))
+		n = N(len(numbers))
 		numbers[key] = n
 	}
 	return n

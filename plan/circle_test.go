@@ -4,6 +4,7 @@ import (
 	"fmt"
 	"math/rand"
 	"runtime"
+	"runtime/debug"
 	"slices"
 	"strconv"
 	"testing"
@@ -256,6 +257,22 @@ func TestPartsApart(t *testing.T) { // P14.2, R1: circles that have nothing in c
 	}
 }
 
+func TestDeadEnds(t *testing.T) { // R1: a value by which one part comes to nothing is let go ahead of going through the others
+	body := []api.Literal{literal("e", x(1), x(2)), literal("e", x(2), x(3)), literal("e", x(3), x(1))}
+	for i := 1; i <= 3; i++ {
+		body = append(body, literal("c", x(0), x(i)))
+	}
+	for i := 4; i < 40; i++ {
+		body = append(body, literal("g", x(0), x(i)), literal("u", x(i)))
+	}
+	l := append(others(3), facts("a c 0 0; a c 0 1; a c 1 0; a c 1 1; a c 1 2; a g 0 0; a g 0 1; a g 1 0; a u 0; a u 1")...)
+	got := soon(t, "dead ends", body, l, 8) // by 0 three may be 0 and 1 alone, and all others both; by 1 all others are 0
+	if len(got) != 6 {
+		t.Error(len(got))
+	}
+	holds(t, body, l, got)
+}
+
 func TestNoCircle(t *testing.T) { // R1: long rules in which neighbours share one, two or three variables: what does not lead to the end is found without trying
 	die := rand.New(rand.NewSource(6))
 	for width := 2; width <= 5; width++ {
@@ -321,6 +338,31 @@ func TestLongCircles(t *testing.T) { // R1: a long row of circles, and full tabl
 			t.Fatal(steps, len(got))
 		}
 	}
+}
+
+func TestDeep(t *testing.T) { // R1: a variable within another one, for as many as the rule has, takes no room where calls within calls stand, of which there is but so much
+	defer debug.SetMaxStack(debug.SetMaxStack(1 << 16))
+	const wide = 40
+	var grid []api.Literal // the four that are each another one hang on its end
+	for i := range wide {
+		for j := range wide - 1 {
+			grid = append(grid, literal("e", x(wide*i+j), x(wide*i+j+1)), literal("e", x(wide*j+i), x(wide*j+wide+i)))
+		}
+	}
+	body := slices.Concat(grid, clique(wide*wide, wide*wide+4), []api.Literal{literal("e", x(wide*wide-1), x(wide*wide))})
+	if got := soon(t, "deep grid", body, others(3), 2000); len(got) != 0 {
+		t.Error(len(got))
+	}
+	var rings []api.Literal // that have nothing in common, each of which is 0 0 0, though each value of each variable is one that each literal has
+	for i := range 2000 {
+		rings = append(rings, literal("e", x(3*i), x(3*i+1)), literal("e", x(3*i+1), x(3*i+2)), literal("f", x(3*i+2), x(3*i)))
+	}
+	l := facts("a e 0 0; a e 1 1; a f 0 0; a f 0 1; a f 1 0")
+	got := soon(t, "many rings", rings, l, 256)
+	if len(got) != 1 {
+		t.Error(len(got))
+	}
+	holds(t, rings[:3], l, [][]api.Fact{got[0][:3]})
 }
 
 // circle is a rule of few variables with many literals, and facts that they may take.

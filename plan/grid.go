@@ -5,7 +5,7 @@ import "slices"
 // pool has the values that all of some columns have, in order. Their numbers in it are the values of variables.
 type pool struct {
 	number int32
-	values []int32
+	values []int
 }
 
 // common is the pool of some columns.
@@ -13,7 +13,7 @@ func common(number int32, l []*column) *pool {
 	slices.SortStableFunc(l, func(a, b *column) int { return len(a.kinds) - len(b.kinds) })
 	p := &pool{number: number, values: slices.Clone(l[0].kinds)}
 	for _, c := range l[1:] {
-		p.values = slices.DeleteFunc(p.values, func(n int32) bool { return len(c.with(n)) == 0 })
+		p.values = slices.DeleteFunc(p.values, func(n int) bool { return len(c.with(n)) == 0 })
 	}
 	return p
 }

@@ -21,8 +21,7 @@ const maxMarks = 256
 // memory is what was found of parts, by their names, and the numbers of the sets of variables that they are of. It spares time alone: whatever is forgotten is found again.
 type memory struct {
 	found map[string]int
-	sets  map[string]int
-	last  int // the number that was given last: none is given twice, since that of a set that is forgotten may still stand in a name
+	sets  map[string]int // each one's number is how many there were ahead of it, and one more
 	bytes int
 	most  int // so many bytes, or about so many, may it take
 }
@@ -31,28 +30,35 @@ func newMemory(most int) memory {
 	return memory{found: map[string]int{}, sets: map[string]int{}, most: most}
 }
 
-// room makes room for a key, be it by forgetting all.
-func (m *memory) room(key string) {
-	m.bytes += len(key) + 64 // with what the map needs for it
-	if m.bytes > m.most {
-		clear(m.found)
-		clear(m.sets)
-		m.bytes = len(key) + 64
+// forget forgets all, if there is no room for one more key, and tells whether it did.
+func (m *memory) forget(key string) bool {
+	if m.bytes <= m.most-need(key) {
+		return false
 	}
+	clear(m.found)
+	clear(m.sets)
+	m.bytes = 0
+	return true
 }
 
+// need are about the bytes that a key takes, with what the map needs for it.
+func need(key string) int { return len(key) + 64 }
+
+// put puts down what was found of a part; but not where all is forgotten for it: the number by which its name tells its set is that of no set any more.
 func (m *memory) put(key string, verdict int) {
-	m.room(key)
-	m.found[key] = verdict
+	if !m.forget(key) {
+		m.found[key] = verdict
+		m.bytes += need(key)
+	}
 }
 
 // set is the number of a set of variables.
 func (m *memory) set(variables []int32) int {
 	key := string(appendNumbers(nil, variables...))
 	if m.sets[key] == 0 {
-		m.room(key)
-		m.last++
-		m.sets[key] = m.last
+		m.forget(key)
+		m.sets[key] = len(m.sets) + 1
+		m.bytes += need(key)
 	}
 	return m.sets[key]
 }

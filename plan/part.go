@@ -12,7 +12,6 @@ type part struct {
 
 // parts are those of some variables, the small ones first, since they are soon tried.
 func (s *search) parts(variables []int32) []*part {
-	s.round++
 	var l []*part
 	for _, v := range variables {
 		if p := (&part{}); s.enter(p, v) {
@@ -20,17 +19,29 @@ func (s *search) parts(variables []int32) []*part {
 			l = append(l, p)
 		}
 	}
+	for _, p := range l {
+		s.unsee(p)
+	}
 	slices.SortStableFunc(l, func(a, b *part) int { return len(a.variables) - len(b.variables) })
 	return l
 }
 
-// enter puts a variable of the rule into a part, if it is open and was not seen in this round.
+// around is the part of an open variable.
+func (s *search) around(v int32) *part {
+	p := &part{}
+	s.enter(p, v)
+	s.spread(p)
+	s.unsee(p)
+	return p
+}
+
+// enter puts a variable of the rule into a part, if it is open and in none yet.
 func (s *search) enter(p *part, v int32) bool {
 	x := s.variables[v]
-	if !s.asked(v) || x.seen == s.round {
+	if !s.asked(v) || x.seen {
 		return false
 	}
-	x.seen = s.round
+	x.seen = true
 	p.variables = append(p.variables, v)
 	return true
 }
@@ -45,15 +56,25 @@ func (s *search) spread(p *part) {
 	for k := 0; k < len(p.variables); k++ { // it grows meanwhile
 		for _, i := range s.variables[p.variables[k]].relations {
 			n := s.relations[i]
-			if n.seen == s.round {
+			if n.seen {
 				continue
 			}
-			n.seen = s.round
+			n.seen = true
 			p.relations = append(p.relations, i)
 			for _, v := range n.variables {
 				s.enter(p, v)
 			}
 		}
+	}
+}
+
+// unsee lets all of a part be seen anew.
+func (s *search) unsee(p *part) {
+	for _, v := range p.variables {
+		s.variables[v].seen = false
+	}
+	for _, i := range p.relations {
+		s.relations[i].seen = false
 	}
 }
 
@@ -80,9 +101,12 @@ func (s *search) chosen(p *part) int32 {
 		if s.steady {
 			return cmp.Compare(x.rank, y.rank)
 		}
-		return cmp.Or(cmp.Compare(int(x.domain.many)*y.weight, int(y.domain.many)*x.weight), cmp.Compare(v, w))
+		return cmp.Or(cmp.Compare(times(x.domain.many, y.weight), times(y.domain.many, x.weight)), cmp.Compare(v, w))
 	})
 }
+
+// times is a product of two numbers of 32 bits, which 64 bits always have room for.
+func times(a, b int32) int64 { return int64(a) * int64(b) }
 
 // values are those that a variable may have, in order.
 func (s *search) values(v int32) []int32 {

@@ -10,7 +10,7 @@ type relation struct {
 	rows      bag     // those of the grid that may still be
 	from      int32   // the number of the relation from which it is reached
 	shared    []int32 // the variables that it shares with that one
-	seen      int     // in which round
+	seen      bool    // whether it is in a part already
 	waits     bool    // whether it is to be looked at
 }
 
@@ -36,9 +36,9 @@ type variable struct {
 	columns   []*column // by relation
 	pool      *pool
 	domain    bag   // the values of the pool that it may still have
-	lost      int   // when it lost a value last
+	lost      bool  // whether it lost a value since all was settled
 	whole     int32 // how many these were when the search began
-	weight    int   // how many relations have it, and how often one of them came to nothing
+	weight    int32 // how many relations have it, and how often one of them came to nothing
 	rank      int   // its place where the search goes steadily
-	seen      int   // in which round
+	seen      bool  // whether it is in a part already
 }

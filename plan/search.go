@@ -11,14 +11,14 @@ type search struct {
 	trail     []change
 	waiting   []int32 // relations that are to be looked at
 	turns     []int32 // those whose turn it is
-	now       int     // how often values were given
+	lost      []int32 // variables that lost values since all was settled
 	spare     []test  // room for those of one relation
-	round     int
-	patience  int  // how many failures are borne at first till all is tried anew
-	left      int  // how many more are
-	steady    bool // whether variables are tried by their ranks
-	ranked    bool // whether they have them
-	marks     int  // of how many values a variable may be, so that a name tells them
+	patience  int     // how many failures are borne at first till all is tried anew
+	most      int     // so many are counted at most: where more are to be borne, all are
+	left      int     // how many more are; endless: all
+	steady    bool    // whether variables are tried by their ranks
+	ranked    bool    // whether they have them
+	marks     int     // of how many values a variable may be, so that a name tells them
 	memory    memory
 	found     [][]int32
 }
@@ -41,104 +41,32 @@ func (s *search) find(of []int) [][]int32 {
 	return s.found
 }
 
-// parts that are to be gone through, one behind the other.
-type todo struct {
-	part *part
-	next *todo
-}
-
-// ahead puts parts ahead of others.
-func ahead(parts []*part, others *todo) *todo {
-	for _, p := range slices.Backward(parts) {
-		others = &todo{part: p, next: others}
-	}
-	return others
-}
-
 // each tells wherever all parts have come to one value for each variable. There is a way to that.
 func (s *search) each(t *todo, tell func()) {
 	if t == nil {
 		tell()
 		return
 	}
-	v := s.chosen(t.part)
-	for _, value := range s.values(v) {
-		mark := len(s.trail)
-		if s.give(v, value) {
-			if parts := s.parts(t.part.variables); s.allCan(parts) {
-				s.each(ahead(parts, t.next), tell)
-			}
+	for x := s.attempt(t, nil); x != nil; {
+		if len(x.values) == 0 {
+			x = x.outer
+			continue
 		}
-		s.undo(mark)
+		parts, left := s.giveNext(x)
+		if !left || !s.allCan(parts) {
+			continue
+		}
+		if t := ahead(parts, x.rest); t != nil {
+			x = s.attempt(t, x)
+		} else {
+			tell()
+		}
 	}
 }
 
 // allCan tells whether there are values for all variables of all parts.
 func (s *search) allCan(parts []*part) bool {
 	return !slices.ContainsFunc(parts, func(p *part) bool { return !s.can(p) })
-}
-
-// can tells whether there are values for all variables of a part. After too many failures it begins anew in the other way: where values rule out others it helps to know which variables fail, and where they do not it helps to come to the same parts again and again.
-func (s *search) can(p *part) bool {
-	for many := s.patience; ; many *= 2 {
-		for range 2 {
-			s.left = many
-			if verdict := s.try(p); verdict != unknown {
-				return verdict == possible
-			}
-			s.turn()
-		}
-	}
-}
-
-// turn goes over to the other way.
-func (s *search) turn() {
-	if !s.ranked {
-		s.rank()
-		s.ranked = true
-	}
-	s.steady = !s.steady
-}
-
-// try tells what is found of a part: unknown after too many failures.
-func (s *search) try(p *part) int {
-	if s.easy(p) {
-		return possible
-	}
-	name := s.name(p)
-	if verdict := s.memory.found[name]; verdict != unknown {
-		return verdict
-	}
-	v := s.chosen(p)
-	for _, value := range s.values(v) {
-		if s.left < 0 {
-			return unknown
-		}
-		if verdict := s.tryValue(p, v, value); verdict != impossible {
-			if verdict == possible {
-				s.memory.put(name, possible)
-			}
-			return verdict
-		}
-		s.left--
-	}
-	s.memory.put(name, impossible)
-	return impossible
-}
-
-// tryValue tells what is found of a part, if one of its variables has a value.
-func (s *search) tryValue(p *part, v, value int32) int {
-	mark := len(s.trail)
-	defer s.undo(mark)
-	if !s.give(v, value) {
-		return impossible
-	}
-	for _, q := range s.parts(p.variables) {
-		if verdict := s.try(q); verdict != possible {
-			return verdict
-		}
-	}
-	return possible
 }
 
 // tell puts down all choices of rows that are left. All rows of one relation have the same values now of what it shares with others.

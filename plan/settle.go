@@ -1,6 +1,9 @@
 package plan
 
-import "slices"
+import (
+	"math"
+	"slices"
+)
 
 // change is a bag from which numbers went, and how many it had ahead of that.
 type change struct {
@@ -45,13 +48,20 @@ func (s *search) start() bool {
 // give gives a variable one of its values alone; false, if nothing is left then.
 func (s *search) give(v, value int32) bool {
 	x := s.variables[v]
-	s.now++
 	s.keep(&x.domain, x.domain.gather(value, 0))
-	x.lost = s.now
+	s.lose(v)
 	for _, i := range x.relations {
 		s.wait(i)
 	}
 	return s.settle()
+}
+
+// lose puts a variable down as one that lost values, till all is settled.
+func (s *search) lose(v int32) {
+	if x := s.variables[v]; !x.lost {
+		x.lost = true
+		s.lost = append(s.lost, v)
+	}
 }
 
 // wait lets a relation wait till it is looked at.
@@ -72,6 +82,10 @@ func (s *search) settle() bool {
 			left = left && s.look(i, false)
 		}
 	}
+	for _, v := range s.lost {
+		s.variables[v].lost = false
+	}
+	s.lost = s.lost[:0]
 	return left
 }
 
@@ -81,7 +95,7 @@ func (s *search) look(i int32, first bool) bool {
 	fit := s.fitting(n)
 	if fit == 0 {
 		for _, v := range n.variables {
-			s.variables[v].weight++
+			s.blame(v)
 		}
 		return false
 	}
@@ -92,6 +106,19 @@ func (s *search) look(i int32, first bool) bool {
 		}
 	}
 	return true
+}
+
+// maxWeight is the greatest weight.
+const maxWeight = math.MaxInt32
+
+// blame makes a variable's weight greater by one. Where there is no greater one, all weights are halved ahead of that: it is their proportion that counts.
+func (s *search) blame(v int32) {
+	if s.variables[v].weight == maxWeight {
+		for _, x := range s.variables {
+			x.weight -= x.weight / 2
+		}
+	}
+	s.variables[v].weight++
 }
 
 // test asks of a row whether a variable's value by it is still in its domain.
@@ -105,7 +132,7 @@ type test struct {
 func (s *search) tests(n *relation) []test {
 	l := s.spare[:0]
 	for j, v := range n.variables {
-		if x := s.variables[v]; x.lost == s.now {
+		if x := s.variables[v]; x.lost {
 			l = append(l, test{values: n.grid.values[j], index: n.grid.index[j], domain: &x.domain})
 		}
 	}
@@ -177,7 +204,7 @@ func (s *search) narrow(i int32, j int) {
 		return
 	}
 	s.keep(&x.domain, had)
-	x.lost = s.now
+	s.lose(n.variables[j])
 	for _, k := range x.relations {
 		if k != i {
 			s.wait(k)

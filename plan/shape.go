@@ -38,18 +38,18 @@ func newShape(home api.Term, x api.Literal, env []api.Bind, l []api.Fact) *shape
 type column struct {
 	number int32
 	open   []int32 // the variables, as they are bound one behind the other
-	values []int32 // by choice
-	kinds  []int32 // the values, in order, each once
+	values []int   // by choice
+	kinds  []int   // the values, in order, each once
 	starts []int32 // by kind: where its choices begin in sorted; and where the last ones end
 	sorted []int32 // the choices, by value
 }
 
-func newColumn(number int32, open, values []int32) *column {
+func newColumn(number int32, open []int32, values []int) *column {
 	c := &column{number: number, open: open, values: values, sorted: make([]int32, len(values))}
 	for i := range c.sorted {
 		c.sorted[i] = int32(i)
 	}
-	slices.SortStableFunc(c.sorted, func(a, b int32) int { return int(values[a]) - int(values[b]) })
+	slices.SortStableFunc(c.sorted, func(a, b int32) int { return values[a] - values[b] })
 	for i, x := range c.sorted {
 		if i == 0 || values[x] != values[c.sorted[i-1]] {
 			c.kinds = append(c.kinds, values[x])
@@ -61,7 +61,7 @@ func newColumn(number int32, open, values []int32) *column {
 }
 
 // with are the choices that have a value.
-func (c *column) with(value int32) []int32 {
+func (c *column) with(value int) []int32 {
 	i, found := slices.BinarySearch(c.kinds, value)
 	if !found {
 		return nil
