@@ -506,6 +506,47 @@ func TestBack(t *testing.T) { // P14.2: an attempt keeps its part no longer than
 	}
 }
 
+func TestName(t *testing.T) { // P14.2: a part has one name, in whatever order what it has was met
+	die := rand.New(rand.NewSource(4))
+	some := 0
+	for range 300 {
+		r, l := anyTangle(die)
+		d, ok := read(r, "a", -1, api.Fact{}, l)
+		if !ok {
+			continue
+		}
+		s := newSearch(d.relations)
+		if !s.start() {
+			continue
+		}
+		for v := range int32(s.given) {
+			if !s.asked(v) || !s.give(v, s.values(v)[0]) {
+				break
+			}
+			for w := range int32(s.given) {
+				if !s.asked(w) {
+					continue
+				}
+				p := s.around(w)
+				want := s.name(p)
+				for range 8 {
+					die.Shuffle(len(p.variables), func(i, j int) { p.variables[i], p.variables[j] = p.variables[j], p.variables[i] })
+					die.Shuffle(len(p.relations), func(i, j int) { p.relations[i], p.relations[j] = p.relations[j], p.relations[i] })
+					if got := s.name(p); got != want {
+						t.Fatalf("%+v: %q; want %q", p, got, want)
+					}
+				}
+				if len(p.relations) > 1 {
+					some++
+				}
+			}
+		}
+	}
+	if some < 300 {
+		t.Error("only so many:", some)
+	}
+}
+
 func TestRoom(t *testing.T) { // R1: what is tried within what is tried takes no room by the square of the rule
 	const wide = 60
 	pair := func(i, j int) api.Literal {
